@@ -18,7 +18,8 @@ import (
 const (
 	module  = "granary/"
 	library = " bytes cmp container/heap errors iter maps math math/big math/bits slices sort strconv strings sync sync/atomic unicode unicode/utf8 "
-	longest = 60 // lines of a function
+	longest = 60  // lines of a function
+	widest  = 200 // values of a table
 )
 
 // programFiles are the program's Go files, without its tests.
@@ -87,6 +88,9 @@ func checkComments(t *testing.T, path string, file *ast.File) {
 func checkDeclarations(t *testing.T, path string, set *token.FileSet, file *ast.File) {
 	t.Helper()
 	for _, d := range file.Decls {
+		if g, ok := d.(*ast.GenDecl); ok && g.Tok == token.VAR {
+			checkVariables(t, path, g)
+		}
 		f, ok := d.(*ast.FuncDecl)
 		if !ok {
 			continue
@@ -98,4 +102,59 @@ func checkDeclarations(t *testing.T, path string, set *token.FileSet, file *ast.
 			t.Errorf("%s: %s has %d lines", path, f.Name.Name, n)
 		}
 	}
+}
+
+// checkVariables lets tables of literals and errors pass.
+func checkVariables(t *testing.T, path string, g *ast.GenDecl) {
+	t.Helper()
+	for _, s := range g.Specs {
+		v := s.(*ast.ValueSpec)
+		if len(v.Values) != len(v.Names) {
+			t.Errorf("%s: %s has no value of its own", path, v.Names[0].Name)
+		}
+		for i, x := range v.Values {
+			name := v.Names[i].Name
+			if call, ok := x.(*ast.CallExpr); ok {
+				if !isErrorsNew(call) {
+					t.Errorf("%s: %s is made by a call", path, name)
+				}
+				continue
+			}
+			if n := literals(t, path, name, x); n > widest {
+				t.Errorf("%s: %s has %d values", path, name, n)
+			}
+		}
+	}
+}
+
+func isErrorsNew(call *ast.CallExpr) bool {
+	f, ok := call.Fun.(*ast.SelectorExpr)
+	if !ok || f.Sel.Name != "New" {
+		return false
+	}
+	from, ok := f.X.(*ast.Ident)
+	return ok && from.Name == "errors"
+}
+
+// literals counts a table's values.
+func literals(t *testing.T, path, name string, x ast.Expr) int {
+	t.Helper()
+	n := 0
+	ast.Inspect(x, func(x ast.Node) bool {
+		switch y := x.(type) {
+		case *ast.BasicLit:
+			n++
+			if y.Kind == token.FLOAT {
+				t.Errorf("%s: %s has a float", path, name)
+			}
+		case *ast.MapType, *ast.FuncLit, *ast.FuncType, *ast.CallExpr:
+			t.Errorf("%s: %s is no table of literals", path, name)
+		case *ast.UnaryExpr:
+			if y.Op == token.AND {
+				t.Errorf("%s: %s holds an address", path, name)
+			}
+		}
+		return true
+	})
+	return n
 }
