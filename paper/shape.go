@@ -4,6 +4,7 @@ import (
 	"strconv"
 
 	"granary/digest"
+	"granary/plain"
 )
 
 // shape is how a field's value is written.
@@ -18,13 +19,11 @@ const (
 )
 
 const (
-	greatestSum  = 1<<32 - 1
-	sumBytes     = 4
-	md5Bytes     = 16
-	mostDigits   = 16 // of a number
-	letters      = "abcdefghijklmnopqrstuvwxyz"
-	storeLetters = letters + "0123456789-"
-	nameLetters  = storeLetters + "_."
+	greatestSum = 1<<32 - 1
+	sumBytes    = 4
+	md5Bytes    = 16
+	mostDigits  = 16 // of a number
+	nameLetters = plain.StoreLetters + "_."
 )
 
 // allows tells whether the value is in the range, and is such a name as the shape asks for.
@@ -40,7 +39,7 @@ func (s shape) allows(v value, low, high int) bool {
 	case aName:
 		return isName(v.text)
 	case aStore:
-		return isStore(v.text)
+		return plain.IsStore(v.text)
 	}
 	return true
 }
@@ -66,7 +65,7 @@ func (s shape) print(v value) string {
 func (s shape) read(word string) (value, bool) {
 	switch s {
 	case aNumber:
-		n, ok := readNumber(word)
+		n, ok := plain.Number(word, mostDigits)
 		return value{number: n}, ok
 	case aSum:
 		n, ok := readSum(word)

@@ -1,26 +1,10 @@
 package paper
 
 import (
-	"strings"
-
 	"granary/api"
 	"granary/digest"
+	"granary/plain"
 )
-
-// readNumber reads decimal digits. What has no more than the digits that are allowed is far from an int's end.
-func readNumber(word string) (int, bool) {
-	if word == "" || len(word) > mostDigits || word[0] == '0' && word != "0" {
-		return 0, false
-	}
-	n := 0
-	for i := range len(word) {
-		if word[i] < '0' || word[i] > '9' {
-			return 0, false
-		}
-		n = 10*n + int(word[i]-'0')
-	}
-	return n, true
-}
 
 // printSum writes a CRC-32 as eight digits.
 func printSum(sum int) string {
@@ -48,20 +32,5 @@ func readHex(word string, size int) (string, bool) {
 
 // isName tells whether a disk could call an entry so, its length aside.
 func isName(text string) bool {
-	return isOf(text, nameLetters) && text != "." && text != ".."
-}
-
-// isStore tells whether a store could be called so, its length aside.
-func isStore(text string) bool {
-	return text != "" && isOf(text[:1], letters) && isOf(text, storeLetters)
-}
-
-// isOf tells whether all bytes of a text are among these.
-func isOf(text, these string) bool {
-	for i := range len(text) {
-		if strings.IndexByte(these, text[i]) < 0 {
-			return false
-		}
-	}
-	return true
+	return plain.IsOf(text, nameLetters) && text != "." && text != ".."
 }
