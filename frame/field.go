@@ -4,6 +4,7 @@ import (
 	"strings"
 
 	"granary/api"
+	"granary/plain"
 )
 
 // field is one of a message's fields, its Kind aside, in the order in which they stand in a frame.
@@ -135,18 +136,18 @@ func fit(kind int, all cells) bool {
 // write puts a field that fits behind out.
 func (f field) write(out []byte, c cell) []byte {
 	if shapes[f].isText {
-		return append(put(out, len(c.text), shapes[f].width), c.text...)
+		return append(plain.Put(out, len(c.text), shapes[f].width), c.text...)
 	}
-	return put(out, c.number, shapes[f].width)
+	return plain.Put(out, c.number, shapes[f].width)
 }
 
-// read takes a field from the beginning of a text, in its range or not, and tells what is left of the text; no, if not all of the field is there.
+// read takes a field from the beginning of a text, in its range or not (what eight bytes hold beyond an int comes out below 0, and fits no field), and tells what is left of the text; no, if not all of the field is there.
 func (f field) read(text string) (cell, string, bool) {
 	width := shapes[f].width
 	if len(text) < width {
 		return cell{}, "", false
 	}
-	n, rest := number(text[:width]), text[width:]
+	n, rest := plain.Take(text[:width]), text[width:]
 	if !shapes[f].isText {
 		return cell{number: n}, rest, true
 	}
@@ -154,21 +155,4 @@ func (f field) read(text string) (cell, string, bool) {
 		return cell{}, "", false
 	}
 	return cell{text: rest[:n]}, rest[n:], true
-}
-
-// put writes a number as so many bytes, the highest first.
-func put(out []byte, n, width int) []byte {
-	for i := width - 1; i >= 0; i-- {
-		out = append(out, byte(n>>(8*i)))
-	}
-	return out
-}
-
-// number is that of some bytes, the highest first. What eight bytes hold beyond an int comes out below 0, so it fits no field.
-func number(text string) int {
-	n := uint64(0)
-	for i := range len(text) {
-		n = n<<8 | uint64(text[i])
-	}
-	return int(n)
 }

@@ -1,4 +1,4 @@
-// Package plain reads words of the kinds that stand in more than one layer's texts.
+// Package plain reads and writes what stands in the texts and bytes of more than one layer: numbers, names.
 package plain
 
 import (
