@@ -2,6 +2,7 @@ package builder
 
 import (
 	"granary/api"
+	"granary/plain"
 	"granary/ring"
 )
 
@@ -33,7 +34,7 @@ func Check(j api.Job, pairs []api.Pair) api.Errno {
 }
 
 func checkJob(j api.Job) api.Errno {
-	if !isVersion(j.Version) {
+	if !plain.IsVersion(j.Version) {
 		return api.ErrVersion
 	}
 	if j.Policy < api.KeepLast || j.Policy > api.KeepNone {
@@ -90,16 +91,7 @@ func Need(c api.Cluster, j api.Job, pairs []api.Pair) (int, api.Errno) {
 		return 0, e
 	}
 	sum := c.Width*len(pairs) + bytesOf(pairs)
-	files := c.Replicas*(sum+pairRoom*len(pairs)) + chunkRoom*parts(c)*c.Replicas*c.Chunks + nodeRoom*len(c.Nodes)
+	files := c.Replicas*(sum+pairRoom*len(pairs)) + chunkRoom*plain.Parts(c)*c.Replicas*c.Chunks + nodeRoom*len(c.Nodes)
 	runs := 2 * (sum + rowRoom*len(pairs)) // the sorter's are all rows, and what it merges of them
 	return files + runs, api.OK
-}
-
-// parts is how many partitions a cluster has.
-func parts(c api.Cluster) int {
-	sum := 0
-	for _, node := range c.Nodes {
-		sum += len(node.Parts)
-	}
-	return sum
 }

@@ -4,7 +4,6 @@ import (
 	"strconv"
 	"strings"
 
-	"granary/api"
 	"granary/plain"
 )
 
@@ -15,15 +14,9 @@ const (
 	isGone  = "gone-"
 )
 
-const (
-	metaName     = "meta"
-	manifestName = "manifest"
-	sortName     = "sort"
-)
+const sortName = "sort"
 
 const versionDigits = 6 // of MaxVersion
-
-func isVersion(n int) bool { return n >= 1 && n <= api.MaxVersion }
 
 // nameOf is a version's name in the root.
 func nameOf(begin string, version int) string { return begin + strconv.Itoa(version) }
@@ -35,7 +28,7 @@ func versionOf(begin, name string) (int, bool) {
 		return 0, false
 	}
 	n, ok := plain.Number(digits, versionDigits)
-	return n, ok && isVersion(n)
+	return n, ok && plain.IsVersion(n)
 }
 
 // nodeName is the name of a node's directory.

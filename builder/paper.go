@@ -7,16 +7,17 @@ import (
 	"granary/api"
 	"granary/digest"
 	"granary/paper"
+	"granary/plain"
 )
 
 // papers writes what a node's directory says of itself, and makes the directory's entries safe.
 func (w *work) papers(node int) {
 	text, e := paper.PrintMeta(w.meta(node))
 	must(e)
-	w.write(node, metaName, text)
+	w.write(node, plain.MetaName, text)
 	text, e = paper.PrintManifest(w.manifest(node))
 	must(e)
-	w.write(node, manifestName, text)
+	w.write(node, plain.ManifestName, text)
 	must(w.disk.SyncDir(w.nodeDir(node)))
 }
 
@@ -26,7 +27,7 @@ func (w *work) meta(node int) api.Meta {
 		Store:    c.Store,
 		Version:  w.job.Version,
 		Node:     node,
-		Parts:    parts(c),
+		Parts:    plain.Parts(c),
 		Replicas: c.Replicas,
 		Width:    c.Width,
 		Chunks:   c.Chunks,

@@ -4,6 +4,7 @@ import (
 	"granary/api"
 	"granary/digest"
 	"granary/disk"
+	"granary/plain"
 	"granary/record"
 	"granary/ring"
 	"granary/sorter"
@@ -46,7 +47,7 @@ func (w *work) build(pairs []api.Pair) api.Built {
 		must(w.disk.Mkdir(w.nodeDir(node)))
 	}
 	w.rows = read(s)
-	for part := range parts(w.cluster) {
+	for part := range plain.Parts(w.cluster) {
 		w.partition(part)
 	}
 	must(s.Close())

@@ -1,4 +1,4 @@
-// Package plain reads and writes what stands in the texts and bytes of more than one layer: numbers, names.
+// Package plain has what more than one layer goes by: how numbers and names stand in texts and bytes, what a version may be called, how many partitions there are.
 package plain
 
 import (
