@@ -1,0 +1,111 @@
+package fetch
+
+import (
+	"granary/api"
+	"granary/digest"
+	"granary/paper"
+)
+
+// The steps that follow a block.
+const (
+	laying = iota
+	closing
+	ending
+)
+
+// follow does what follows a block, from one of the steps on: each leads to the next, unless there is more to come.
+func (j *Job) follow(step, at int, data string) api.Errno {
+	switch step {
+	case laying:
+		if e := j.layDown(at, data); e != api.OK {
+			return e
+		}
+		if j.rows[at].safe < j.rows[at].Size {
+			return api.OK
+		}
+		fallthrough
+	case closing:
+		if e := j.closeFile(at); e != api.OK {
+			return e
+		}
+		if j.current() < len(j.rows) {
+			return api.OK
+		}
+		fallthrough
+	case ending:
+		return j.end()
+	}
+	return api.OK
+}
+
+// endIfWhole ends a job that has just begun, if nothing is left to be asked for.
+func (j *Job) endIfWhole() api.Errno {
+	if j.phase != api.FetchRunning || j.current() < len(j.rows) {
+		return api.OK
+	}
+	return j.follow(ending, 0, "")
+}
+
+// layDown writes a block behind a row's safe bytes. They are written down as safe when they are: not earlier.
+func (j *Job) layDown(at int, data string) api.Errno {
+	r := &j.rows[at]
+	upto := r.safe + len(data)
+	sum, _ := digest.CRCJoin(r.sum, digest.CRC(data), len(data))
+	acts := []act{{j.path(r.Name), with(j.disk.Append, data)}, {j.path(r.Name), j.disk.Sync}}
+	acts = append(acts, j.noting(api.Note{Kind: api.NoteBlock, File: at, Upto: upto, Crc: sum})...)
+	if e := run(acts); e != api.OK {
+		return e
+	}
+	r.safe, r.sum = upto, sum
+	return api.OK
+}
+
+// closeFile holds a file of which all bytes are there against its row. ErrWhole tells that it began anew.
+func (j *Job) closeFile(at int) api.Errno {
+	r := &j.rows[at]
+	if !j.fits(*r) {
+		return j.empty(at)
+	}
+	if e := run(j.noting(api.Note{Kind: api.NoteFile, File: at})); e != api.OK {
+		return e
+	}
+	r.whole = true
+	j.budget.Clear(itemOf(at))
+	return api.OK
+}
+
+// empty lets a file begin anew, since nobody can tell which of its blocks was forged.
+func (j *Job) empty(at int) api.Errno {
+	r := &j.rows[at]
+	acts := []act{{j.path(r.Name), with(j.disk.Truncate, 0)}, {j.path(r.Name), j.disk.Sync}}
+	acts = append(acts, j.noting(api.Note{Kind: api.NoteBlock, File: at})...)
+	if e := run(acts); e != api.OK {
+		return e
+	}
+	r.safe, r.sum = 0, 0
+	return api.ErrWhole
+}
+
+// end takes the journal away: a directory without one is whole.
+func (j *Job) end() api.Errno {
+	acts := append(j.noting(api.Note{Kind: api.NoteWhole}),
+		act{j.path(journalName), j.disk.Remove},
+		act{j.dir, j.disk.SyncDir})
+	if e := run(acts); e != api.OK {
+		return e
+	}
+	j.phase = api.FetchDone
+	return api.OK
+}
+
+// noting are the acts by which the journal says one thing more.
+func (j *Job) noting(n api.Note) []act {
+	path := j.path(journalName)
+	return []act{{path, with(j.disk.Append, line(n))}, {path, j.disk.Sync}}
+}
+
+// line is a note as the journal has it. What is noted here is always within a note's ranges.
+func line(n api.Note) string {
+	text, _ := paper.PrintNote(n)
+	return text
+}
