@@ -3,6 +3,7 @@ package builder
 import (
 	"granary/api"
 	"granary/disk"
+	"granary/plain"
 )
 
 // Clean takes away what builds that did not end have left.
@@ -17,7 +18,7 @@ func clean(d *disk.Disk) {
 	must(e)
 	taken := 0
 	for _, entry := range list {
-		if _, ok := versionOf(isPart, entry.Name); ok {
+		if _, ok := plain.VersionOf(isPart, entry.Name); ok {
 			takeAway(d, entry.Name, entry.Kind)
 			taken++
 		}
@@ -49,11 +50,11 @@ func Drop(d *disk.Disk, version int) (e api.Errno) {
 	}
 	defer func() { e = caught(recover()) }()
 	clean(d)
-	gone := nameOf(isGone, version)
+	gone := plain.NameOf(isGone, version)
 	if _, e := d.Kind(gone); e != api.OK {
 		must(d.Mkdir(gone))
 	}
-	must(d.Rename(nameOf(isBuilt, version), nameOf(isPart, version)))
+	must(d.Rename(plain.NameOf(isBuilt, version), plain.NameOf(isPart, version)))
 	must(d.SyncDir(""))
 	clean(d)
 	return api.OK

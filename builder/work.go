@@ -34,7 +34,7 @@ func begin(d *disk.Disk, c api.Cluster, j api.Job) *work {
 		disk:    d,
 		cluster: c,
 		job:     j,
-		dir:     nameOf(isPart, j.Version),
+		dir:     plain.NameOf(isPart, j.Version),
 		sums:    map[file]*digest.Hasher{},
 		held:    make([]int, len(c.Nodes)),
 	}
@@ -55,7 +55,7 @@ func (w *work) build(pairs []api.Pair) api.Built {
 		w.papers(node)
 	}
 	must(w.disk.SyncDir(w.dir))
-	must(w.disk.Rename(w.dir, nameOf(isBuilt, w.job.Version)))
+	must(w.disk.Rename(w.dir, plain.NameOf(isBuilt, w.job.Version)))
 	must(w.disk.SyncDir(""))
 	return w.tell(len(pairs))
 }

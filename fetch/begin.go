@@ -3,6 +3,7 @@ package fetch
 import (
 	"slices"
 
+	"granary/acts"
 	"granary/api"
 	"granary/digest"
 	"granary/paper"
@@ -39,19 +40,19 @@ func (j *Job) beginNote(manifest string) api.Note {
 // anew lays out the directory. What is there is in the way.
 func (j *Job) anew(manifest string, there bool) api.Errno {
 	d, text, journal := j.disk, j.path(plain.ManifestName), j.path(journalName)
-	var acts []act
+	var list []acts.Act
 	if there {
-		acts = sweeping(d, j.dir, api.IsDir)
+		list = sweeping(d, j.dir)
 	}
-	acts = append(acts,
-		act{j.dir, d.Mkdir},
-		act{text, d.Create}, act{text, with(d.Append, manifest)}, act{text, d.Sync},
-		act{journal, d.Create}, act{journal, with(d.Append, line(j.beginNote(manifest)))}, act{journal, d.Sync})
+	list = append(list,
+		acts.On(j.dir, d.Mkdir),
+		acts.On(text, d.Create), acts.On(text, acts.With(d.Append, manifest)), acts.On(text, d.Sync),
+		acts.On(journal, d.Create), acts.On(journal, acts.With(d.Append, line(j.beginNote(manifest)))), acts.On(journal, d.Sync))
 	for _, r := range j.rows {
-		acts = append(acts, act{j.path(r.Name), d.Create})
+		list = append(list, acts.On(j.path(r.Name), d.Create))
 	}
-	acts = append(acts, act{j.dir, d.SyncDir}, act{parent(j.dir), d.SyncDir})
-	if e := run(acts); e != api.OK {
+	list = append(list, acts.On(j.dir, d.SyncDir), acts.On(parent(j.dir), d.SyncDir))
+	if e := acts.Run(list...); e != api.OK {
 		return e
 	}
 	for at := range j.rows {
@@ -98,7 +99,7 @@ func (j *Job) hasRow(name string) bool {
 
 // takeUp goes on where a job was broken off.
 func (j *Job) takeUp(l left) api.Errno {
-	if e := run(j.securing(l)); e != api.OK {
+	if e := acts.Run(j.securing(l)...); e != api.OK {
 		return e
 	}
 	for at, s := range j.saidOfAll(l) {
@@ -114,22 +115,22 @@ func (j *Job) takeUp(l left) api.Errno {
 }
 
 // securing are the acts by which what the directory says becomes safe, whoever laid it there.
-func (j *Job) securing(l left) []act {
+func (j *Job) securing(l left) []acts.Act {
 	d := j.disk
-	var acts []act
+	var list []acts.Act
 	if l.journal {
-		acts = j.cutting(journalName, l.good)
+		list = j.cutting(journalName, l.good)
 	}
-	return append(acts, act{j.path(plain.ManifestName), d.Sync}, act{j.dir, d.SyncDir}, act{parent(j.dir), d.SyncDir})
+	return append(list, acts.On(j.path(plain.ManifestName), d.Sync), acts.On(j.dir, d.SyncDir), acts.On(parent(j.dir), d.SyncDir))
 }
 
 // cutting are the acts by which no more than a file's first bytes stay, and these are safe.
-func (j *Job) cutting(name string, size int) []act {
-	var acts []act
+func (j *Job) cutting(name string, size int) []acts.Act {
+	var list []acts.Act
 	if j.size(name) > size {
-		acts = append(acts, act{j.path(name), with(j.disk.Truncate, size)})
+		list = append(list, acts.On(j.path(name), acts.With(j.disk.Truncate, size)))
 	}
-	return append(acts, act{j.path(name), j.disk.Sync})
+	return append(list, acts.On(j.path(name), j.disk.Sync))
 }
 
 // saidOfAll is what is said of each row. Without a journal all are whole: else the directory could not be taken up.
@@ -163,7 +164,7 @@ func (j *Job) takeUpRow(at int, s said) api.Errno {
 	case j.begins(*r, s.upto, s.sum):
 		r.safe, r.sum = s.upto, s.sum
 	}
-	if e := run(j.cutting(r.Name, r.safe)); e != api.OK {
+	if e := acts.Run(j.cutting(r.Name, r.safe)...); e != api.OK {
 		return e
 	}
 	if r.whole || r.safe < r.Size {

@@ -1,6 +1,7 @@
 package fetch
 
 import (
+	"granary/acts"
 	"granary/api"
 	"granary/digest"
 	"granary/paper"
@@ -51,9 +52,9 @@ func (j *Job) layDown(at int, data string) api.Errno {
 	r := &j.rows[at]
 	upto := r.safe + len(data)
 	sum, _ := digest.CRCJoin(r.sum, digest.CRC(data), len(data))
-	acts := []act{{j.path(r.Name), with(j.disk.Append, data)}, {j.path(r.Name), j.disk.Sync}}
-	acts = append(acts, j.noting(api.Note{Kind: api.NoteBlock, File: at, Upto: upto, Crc: sum})...)
-	if e := run(acts); e != api.OK {
+	list := []acts.Act{acts.On(j.path(r.Name), acts.With(j.disk.Append, data)), acts.On(j.path(r.Name), j.disk.Sync)}
+	list = append(list, j.noting(api.Note{Kind: api.NoteBlock, File: at, Upto: upto, Crc: sum})...)
+	if e := acts.Run(list...); e != api.OK {
 		return e
 	}
 	r.safe, r.sum = upto, sum
@@ -66,7 +67,7 @@ func (j *Job) closeFile(at int) api.Errno {
 	if !j.fits(*r) {
 		return j.empty(at)
 	}
-	if e := run(j.noting(api.Note{Kind: api.NoteFile, File: at})); e != api.OK {
+	if e := acts.Run(j.noting(api.Note{Kind: api.NoteFile, File: at})...); e != api.OK {
 		return e
 	}
 	r.whole = true
@@ -77,9 +78,9 @@ func (j *Job) closeFile(at int) api.Errno {
 // empty lets a file begin anew, since nobody can tell which of its blocks was forged.
 func (j *Job) empty(at int) api.Errno {
 	r := &j.rows[at]
-	acts := []act{{j.path(r.Name), with(j.disk.Truncate, 0)}, {j.path(r.Name), j.disk.Sync}}
-	acts = append(acts, j.noting(api.Note{Kind: api.NoteBlock, File: at})...)
-	if e := run(acts); e != api.OK {
+	list := []acts.Act{acts.On(j.path(r.Name), acts.With(j.disk.Truncate, 0)), acts.On(j.path(r.Name), j.disk.Sync)}
+	list = append(list, j.noting(api.Note{Kind: api.NoteBlock, File: at})...)
+	if e := acts.Run(list...); e != api.OK {
 		return e
 	}
 	r.safe, r.sum = 0, 0
@@ -88,10 +89,10 @@ func (j *Job) empty(at int) api.Errno {
 
 // end takes the journal away: a directory without one is whole.
 func (j *Job) end() api.Errno {
-	acts := append(j.noting(api.Note{Kind: api.NoteWhole}),
-		act{j.path(journalName), j.disk.Remove},
-		act{j.dir, j.disk.SyncDir})
-	if e := run(acts); e != api.OK {
+	list := append(j.noting(api.Note{Kind: api.NoteWhole}),
+		acts.On(j.path(journalName), j.disk.Remove),
+		acts.On(j.dir, j.disk.SyncDir))
+	if e := acts.Run(list...); e != api.OK {
 		return e
 	}
 	j.phase = api.FetchDone
@@ -99,9 +100,9 @@ func (j *Job) end() api.Errno {
 }
 
 // noting are the acts by which the journal says one thing more.
-func (j *Job) noting(n api.Note) []act {
+func (j *Job) noting(n api.Note) []acts.Act {
 	path := j.path(journalName)
-	return []act{{path, with(j.disk.Append, line(n))}, {path, j.disk.Sync}}
+	return []acts.Act{acts.On(path, acts.With(j.disk.Append, line(n))), acts.On(path, j.disk.Sync)}
 }
 
 // line is a note as the journal has it. What is noted here is always within a note's ranges.

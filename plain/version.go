@@ -1,6 +1,11 @@
 package plain
 
-import "granary/api"
+import (
+	"strconv"
+	"strings"
+
+	"granary/api"
+)
 
 // The papers in a version's directory.
 const (
@@ -8,14 +13,23 @@ const (
 	ManifestName = "manifest"
 )
 
+const versionDigits = 6 // of MaxVersion
+
 // IsVersion tells whether a version may have that number.
 func IsVersion(n int) bool { return n >= 1 && n <= api.MaxVersion }
 
-// Parts is how many partitions a cluster has.
-func Parts(c api.Cluster) int {
-	sum := 0
-	for _, node := range c.Nodes {
-		sum += len(node.Parts)
+// NameOf is a name that begins so and ends with a version's number.
+func NameOf(begin string, version int) string { return begin + strconv.Itoa(version) }
+
+// VersionOf reads such a name.
+func VersionOf(begin, name string) (int, bool) {
+	digits, ok := strings.CutPrefix(name, begin)
+	if !ok {
+		return 0, false
 	}
-	return sum
+	n, ok := Number(digits, versionDigits)
+	if !ok || !IsVersion(n) {
+		return 0, false
+	}
+	return n, true
 }
