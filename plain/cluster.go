@@ -25,3 +25,16 @@ func CopyOf(c api.Cluster) api.Cluster {
 	}
 	return c
 }
+
+// HomeFirst is these nodes of a cluster, those in the clients' zone ahead of the others, else in the order in which they stand.
+func HomeFirst(c api.Cluster, nodes []int) []int {
+	var home, away []int
+	for _, node := range nodes {
+		if c.Nodes[node].Zone == c.Home {
+			home = append(home, node)
+		} else {
+			away = append(away, node)
+		}
+	}
+	return append(home, away...)
+}

@@ -5,6 +5,7 @@ import (
 	"strings"
 
 	"granary/api"
+	"granary/plain"
 	"granary/ring"
 )
 
@@ -37,15 +38,7 @@ func (r *Router) open(key string) *get {
 func (r *Router) owners(key string) []int {
 	place, _ := ring.Locate(r.cluster, key)
 	owners, _ := ring.Owners(r.cluster, place.Part)
-	var home, away []int
-	for _, node := range owners {
-		if r.cluster.Nodes[node].Zone == r.cluster.Home {
-			home = append(home, node)
-		} else {
-			away = append(away, node)
-		}
-	}
-	row, _ := r.watch.Order(append(home, away...)...)
+	row, _ := r.watch.Order(plain.HomeFirst(r.cluster, owners)...)
 	return row
 }
 
