@@ -18,7 +18,7 @@ func clean(d *disk.Disk) {
 	must(e)
 	taken := 0
 	for _, entry := range list {
-		if _, ok := plain.VersionOf(isPart, entry.Name); ok {
+		if _, ok := plain.VersionOf(plain.PartBegin, entry.Name); ok {
 			takeAway(d, entry.Name, entry.Kind)
 			taken++
 		}
@@ -50,11 +50,11 @@ func Drop(d *disk.Disk, version int) (e api.Errno) {
 	}
 	defer func() { e = caught(recover()) }()
 	clean(d)
-	gone := plain.NameOf(isGone, version)
+	gone := plain.NameOf(plain.GoneBegin, version)
 	if _, e := d.Kind(gone); e != api.OK {
 		must(d.Mkdir(gone))
 	}
-	must(d.Rename(plain.NameOf(isBuilt, version), plain.NameOf(isPart, version)))
+	must(d.Rename(plain.NameOf(plain.BuildBegin, version), plain.NameOf(plain.PartBegin, version)))
 	must(d.SyncDir(""))
 	clean(d)
 	return api.OK

@@ -10,6 +10,9 @@ import (
 	"granary/sorter"
 )
 
+// sortName is where a version's rows are sorted, in its directory.
+const sortName = "sort"
+
 // work is a build that is going on. What is refused in it is thrown.
 type work struct {
 	disk    *disk.Disk
@@ -34,7 +37,7 @@ func begin(d *disk.Disk, c api.Cluster, j api.Job) *work {
 		disk:    d,
 		cluster: c,
 		job:     j,
-		dir:     plain.NameOf(isPart, j.Version),
+		dir:     plain.NameOf(plain.PartBegin, j.Version),
 		sums:    map[file]*digest.Hasher{},
 		held:    make([]int, len(c.Nodes)),
 	}
@@ -55,7 +58,7 @@ func (w *work) build(pairs []api.Pair) api.Built {
 		w.papers(node)
 	}
 	must(w.disk.SyncDir(w.dir))
-	must(w.disk.Rename(w.dir, plain.NameOf(isBuilt, w.job.Version)))
+	must(w.disk.Rename(w.dir, plain.NameOf(plain.BuildBegin, w.job.Version)))
 	must(w.disk.SyncDir(""))
 	return w.tell(len(pairs))
 }
@@ -116,7 +119,7 @@ func (w *work) write(node int, name, data string) {
 	must(w.disk.Sync(path))
 }
 
-func (w *work) nodeDir(node int) string { return disk.Path(w.dir, nodeName(node)) }
+func (w *work) nodeDir(node int) string { return disk.Path(w.dir, plain.NodeName(node)) }
 
 // tell is what the build answers.
 func (w *work) tell(pairs int) api.Built {

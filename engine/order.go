@@ -75,7 +75,7 @@ func (e *Engine) write(p api.Pointer) api.Errno {
 		acts.On(newPath, acts.With(d.Append, text)),
 		acts.On(newPath, d.Sync),
 		acts.On(newPath, acts.With(d.Rename, latestPath)),
-		acts.On(storeName, d.SyncDir))
+		acts.On(plain.StoreName, d.SyncDir))
 	switch why {
 	case api.OK:
 		e.latest = p

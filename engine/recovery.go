@@ -27,10 +27,10 @@ func (e *Engine) recovery() []step {
 
 // root makes the store, if there is none.
 func (e *Engine) root() api.Errno {
-	kind, why := e.disk.Kind(storeName)
+	kind, why := e.disk.Kind(plain.StoreName)
 	switch {
 	case why == api.ErrNone:
-		return e.run(acts.On(storeName, e.disk.Mkdir), acts.On("", e.disk.SyncDir))
+		return e.run(acts.On(plain.StoreName, e.disk.Mkdir), acts.On("", e.disk.SyncDir))
 	case why != api.OK:
 		return why
 	case kind != api.IsDir:
@@ -64,24 +64,24 @@ func (e *Engine) current() api.Errno {
 
 // litter takes away a pointer that did not get its name, and versions that had lost theirs. The disk lists them by rising names.
 func (e *Engine) litter() api.Errno {
-	list, _ := e.disk.List(storeName)
+	list, _ := e.disk.List(plain.StoreName)
 	var away []acts.Act
 	for _, entry := range list {
-		if _, trash := plain.VersionOf(trashBegin, entry.Name); trash || entry.Name == newName {
-			away = append(away, acts.Removing(e.disk, disk.Path(storeName, entry.Name))...)
+		if _, trash := plain.VersionOf(plain.TrashBegin, entry.Name); trash || entry.Name == plain.NewLatestName {
+			away = append(away, acts.Removing(e.disk, disk.Path(plain.StoreName, entry.Name))...)
 		}
 	}
 	if len(away) == 0 {
 		return api.OK
 	}
-	return e.run(append(away, acts.On(storeName, e.disk.SyncDir))...)
+	return e.run(append(away, acts.On(plain.StoreName, e.disk.SyncDir))...)
 }
 
 // others opens all versions but the current one, and discards what is not whole.
 func (e *Engine) others() api.Errno {
-	list, _ := e.disk.List(storeName)
+	list, _ := e.disk.List(plain.StoreName)
 	for _, entry := range list {
-		version, ok := plain.VersionOf(wholeBegin, entry.Name)
+		version, ok := plain.VersionOf(plain.VersionBegin, entry.Name)
 		if !ok || e.has(version) || e.take(version) == api.OK {
 			continue
 		}

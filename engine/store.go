@@ -8,28 +8,23 @@ import (
 	"granary/shelf"
 )
 
-// What the store has, and how the names of versions begin in it.
+// Where the pointer lies, and where one is written ahead of taking its place.
 const (
-	storeName    = "store"
-	latestPath   = storeName + "/latest"
-	newName      = "latest.new"
-	newPath      = storeName + "/" + newName
-	wholeBegin   = "version-"
-	partialBegin = "fetch-"
-	trashBegin   = "trash-"
+	latestPath = plain.StoreName + "/" + plain.LatestName
+	newPath    = plain.StoreName + "/" + plain.NewLatestName
 )
 
 // Dir is the directory of a version.
-func Dir(version int) string { return pathOf(wholeBegin, version) }
+func Dir(version int) string { return pathOf(plain.VersionBegin, version) }
 
 // PartialDir is the directory of a version that is being fetched.
-func PartialDir(version int) string { return pathOf(partialBegin, version) }
+func PartialDir(version int) string { return pathOf(plain.FetchBegin, version) }
 
 func pathOf(begin string, version int) string {
 	if !plain.IsVersion(version) {
 		return ""
 	}
-	return disk.Path(storeName, plain.NameOf(begin, version))
+	return disk.Path(plain.StoreName, plain.NameOf(begin, version))
 }
 
 // take opens a version. If it is whole the engine has it.
@@ -43,12 +38,12 @@ func (e *Engine) take(version int) api.Errno {
 
 // discard takes a version away. It loses its name first: what is in part is never taken for a version.
 func (e *Engine) discard(version int) api.Errno {
-	d, trash := e.disk, pathOf(trashBegin, version)
+	d, trash := e.disk, pathOf(plain.TrashBegin, version)
 	delete(e.shelves, version)
-	if why := e.run(acts.On(Dir(version), acts.With(d.Rename, trash)), acts.On(storeName, d.SyncDir)); why != api.OK {
+	if why := e.run(acts.On(Dir(version), acts.With(d.Rename, trash)), acts.On(plain.StoreName, d.SyncDir)); why != api.OK {
 		return why
 	}
-	return e.run(append(acts.Removing(d, trash), acts.On(storeName, d.SyncDir))...)
+	return e.run(append(acts.Removing(d, trash), acts.On(plain.StoreName, d.SyncDir))...)
 }
 
 // Admit makes a partial directory that is whole a version.
@@ -97,7 +92,7 @@ func (e *Engine) admitting(dir string, version int) []acts.Act {
 	return append(list,
 		acts.On(dir, d.SyncDir),
 		acts.On(dir, acts.With(d.Rename, Dir(version))),
-		acts.On(storeName, d.SyncDir))
+		acts.On(plain.StoreName, d.SyncDir))
 }
 
 // Prune takes old versions away, and tells which.

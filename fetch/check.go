@@ -2,17 +2,13 @@ package fetch
 
 import (
 	"granary/api"
-	"granary/digest"
 	"granary/disk"
 	"granary/paper"
-	"granary/plain"
+	"granary/partial"
 	"granary/throttle"
 )
 
-const (
-	journalName = "journal"
-	mostBlock   = 4096
-)
+const mostBlock = 4096
 
 // limited is a job of which nothing is known yet but how fast it may go on, and how often again.
 func limited(lim api.Limits) (*Job, api.Errno) {
@@ -36,18 +32,8 @@ func readManifest(text string, quota int) (api.Manifest, api.Errno) {
 	if e != api.OK {
 		return api.Manifest{}, e
 	}
-	for _, f := range m.Files {
-		if f.Name == plain.ManifestName || f.Name == journalName {
-			return api.Manifest{}, api.ErrFile
-		}
-	}
-	if m.Total > quota {
-		return api.Manifest{}, api.ErrQuota
-	}
-	for _, f := range m.Files {
-		if f.Size == 0 && (f.Crc != digest.CRC() || f.Md5 != digest.MD5()) {
-			return api.Manifest{}, api.ErrWhole
-		}
+	if e := partial.Check(m, quota); e != api.OK {
+		return api.Manifest{}, e
 	}
 	return m, api.OK
 }

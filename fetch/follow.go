@@ -5,6 +5,7 @@ import (
 	"granary/api"
 	"granary/digest"
 	"granary/paper"
+	"granary/partial"
 )
 
 // The steps that follow a block.
@@ -21,7 +22,7 @@ func (j *Job) follow(step, at int, data string) api.Errno {
 		if e := j.layDown(at, data); e != api.OK {
 			return e
 		}
-		if j.rows[at].safe < j.rows[at].Size {
+		if j.held[at].Safe < j.here.Rows[at].Size {
 			return api.OK
 		}
 		fallthrough
@@ -29,7 +30,7 @@ func (j *Job) follow(step, at int, data string) api.Errno {
 		if e := j.closeFile(at); e != api.OK {
 			return e
 		}
-		if j.current() < len(j.rows) {
+		if j.current() < len(j.held) {
 			return api.OK
 		}
 		fallthrough
@@ -41,7 +42,7 @@ func (j *Job) follow(step, at int, data string) api.Errno {
 
 // endIfWhole ends a job that has just begun, if nothing is left to be asked for.
 func (j *Job) endIfWhole() api.Errno {
-	if j.phase != api.FetchRunning || j.current() < len(j.rows) {
+	if j.phase != api.FetchRunning || j.current() < len(j.held) {
 		return api.OK
 	}
 	return j.follow(ending, 0, "")
@@ -49,49 +50,49 @@ func (j *Job) endIfWhole() api.Errno {
 
 // layDown writes a block behind a row's safe bytes. They are written down as safe when they are: not earlier.
 func (j *Job) layDown(at int, data string) api.Errno {
-	r := &j.rows[at]
-	upto := r.safe + len(data)
-	sum, _ := digest.CRCJoin(r.sum, digest.CRC(data), len(data))
-	list := []acts.Act{acts.On(j.path(r.Name), acts.With(j.disk.Append, data)), acts.On(j.path(r.Name), j.disk.Sync)}
+	d, h := j.here.Disk, &j.held[at]
+	path := j.here.Of(j.here.Rows[at].Name)
+	upto := h.Safe + len(data)
+	sum, _ := digest.CRCJoin(h.Sum, digest.CRC(data), len(data))
+	list := []acts.Act{acts.On(path, acts.With(d.Append, data)), acts.On(path, d.Sync)}
 	list = append(list, j.noting(api.Note{Kind: api.NoteBlock, File: at, Upto: upto, Crc: sum})...)
 	if e := acts.Run(list...); e != api.OK {
 		return e
 	}
-	r.safe, r.sum = upto, sum
+	h.Safe, h.Sum = upto, sum
 	return api.OK
 }
 
 // closeFile holds a file of which all bytes are there against its row. ErrWhole tells that it began anew.
 func (j *Job) closeFile(at int) api.Errno {
-	r := &j.rows[at]
-	if !j.fits(*r) {
+	if !j.here.Fits(j.here.Rows[at]) {
 		return j.empty(at)
 	}
 	if e := acts.Run(j.noting(api.Note{Kind: api.NoteFile, File: at})...); e != api.OK {
 		return e
 	}
-	r.whole = true
+	j.held[at].Whole = true
 	j.budget.Clear(itemOf(at))
 	return api.OK
 }
 
 // empty lets a file begin anew, since nobody can tell which of its blocks was forged.
 func (j *Job) empty(at int) api.Errno {
-	r := &j.rows[at]
-	list := []acts.Act{acts.On(j.path(r.Name), acts.With(j.disk.Truncate, 0)), acts.On(j.path(r.Name), j.disk.Sync)}
+	d, path := j.here.Disk, j.here.Of(j.here.Rows[at].Name)
+	list := []acts.Act{acts.On(path, acts.With(d.Truncate, 0)), acts.On(path, d.Sync)}
 	list = append(list, j.noting(api.Note{Kind: api.NoteBlock, File: at})...)
 	if e := acts.Run(list...); e != api.OK {
 		return e
 	}
-	r.safe, r.sum = 0, 0
+	j.held[at] = partial.Held{}
 	return api.ErrWhole
 }
 
 // end takes the journal away: a directory without one is whole.
 func (j *Job) end() api.Errno {
 	list := append(j.noting(api.Note{Kind: api.NoteWhole}),
-		acts.On(j.path(journalName), j.disk.Remove),
-		acts.On(j.dir, j.disk.SyncDir))
+		acts.On(j.here.Of(partial.JournalName), j.here.Disk.Remove),
+		acts.On(j.here.Path, j.here.Disk.SyncDir))
 	if e := acts.Run(list...); e != api.OK {
 		return e
 	}
@@ -101,8 +102,8 @@ func (j *Job) end() api.Errno {
 
 // noting are the acts by which the journal says one thing more.
 func (j *Job) noting(n api.Note) []acts.Act {
-	path := j.path(journalName)
-	return []acts.Act{acts.On(path, acts.With(j.disk.Append, line(n))), acts.On(path, j.disk.Sync)}
+	d, path := j.here.Disk, j.here.Of(partial.JournalName)
+	return []acts.Act{acts.On(path, acts.With(d.Append, line(n))), acts.On(path, d.Sync)}
 }
 
 // line is a note as the journal has it. What is noted here is always within a note's ranges.

@@ -7,6 +7,7 @@ import (
 
 	"granary/api"
 	"granary/disk"
+	"granary/joblog"
 )
 
 // P20.2, P20.8, P20.9: the acts of each call, in their order; the disk goes down at each of them, and anything may survive.
@@ -248,17 +249,17 @@ func (x deed) broken(t *testing.T, tell func(how string, b *bench, went bool)) {
 }
 
 // bootOfWhatIsThere boots a steward and holds it against a plain reading of what its disk has; it answers what the log says.
-func bootOfWhatIsThere(t *testing.T, how string, b *bench) entry {
+func bootOfWhatIsThere(t *testing.T, how string, b *bench) joblog.Entry {
 	t.Helper()
-	var j entry
+	var j joblog.Entry
 	if text, e := b.d.Read("job", 0, mostInt); e == api.OK {
 		if j, e = plainly(text); e != api.OK {
 			t.Fatalf("%s: the log %q: %d", how, text, e)
 		}
 	}
 	var want []api.Msg
-	if j.number > 0 && j.outcome == 0 {
-		want = messages(back, b.n, j.number, 0)
+	if j.Number > 0 && j.Outcome == 0 {
+		want = messages(back, b.n, j.Number, 0)
 	}
 	cost := 0
 	if there(b.d, "job.new") {
@@ -270,24 +271,24 @@ func bootOfWhatIsThere(t *testing.T, how string, b *bench) entry {
 }
 
 // goesOn holds that a steward that is up goes on with the number that is due, through a whole job.
-func goesOn(t *testing.T, b *bench, j entry) {
+func goesOn(t *testing.T, b *bench, j joblog.Entry) {
 	t.Helper()
 	if there(b.d, "filler") {
 		done(t, b.d.Remove("filler"))
 	}
 	if b.Busy() {
-		b.ends(t, back, j.number, 9)
-		logIs(t, b.d, j.number, j.kind, j.version, 2)
+		b.ends(t, back, j.Number, 9)
+		logIs(t, b.d, j.Number, j.Kind, j.Version, 2)
 	}
-	b.beginIs(t, 2, 3, j.number+1)
-	logIs(t, b.d, j.number+1, 2, 3, 0)
-	b.ends(t, swap, j.number+1, 3)
-	logIs(t, b.d, j.number+1, 2, 3, 1)
-	b.reportIs(t, j.number+1, 2, 3, api.Succeeded, each(3, 3))
+	b.beginIs(t, 2, 3, j.Number+1)
+	logIs(t, b.d, j.Number+1, 2, 3, 0)
+	b.ends(t, swap, j.Number+1, 3)
+	logIs(t, b.d, j.Number+1, 2, 3, 1)
+	b.reportIs(t, j.Number+1, 2, 3, api.Succeeded, each(3, 3))
 }
 
 // behindBoth boots the same steward and a new one over a copy of its disk: both answer the same, and go on the same way.
-func behindBoth(t *testing.T, how string, b *bench) entry {
+func behindBoth(t *testing.T, how string, b *bench) joblog.Entry {
 	t.Helper()
 	other := over(t, b.c, copied(t, b.d))
 	one, two := bootOfWhatIsThere(t, how, b), bootOfWhatIsThere(t, how+", a copy", other)
@@ -315,11 +316,11 @@ func TestBeginIsBrokenOff(t *testing.T) {
 }
 
 // logOf is what the log says.
-func logOf(t *testing.T, d *disk.Disk) entry {
+func logOf(t *testing.T, d *disk.Disk) joblog.Entry {
 	t.Helper()
 	text, e := d.Read("job", 0, mostInt)
 	if e == api.ErrNone {
-		return entry{}
+		return joblog.Entry{}
 	}
 	j, e := plainly(text)
 	done(t, e)

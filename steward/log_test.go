@@ -9,6 +9,7 @@ import (
 	"testing"
 
 	"granary/api"
+	"granary/joblog"
 )
 
 // The log: what is written, byte by byte, and what is read (P20.3).
@@ -39,9 +40,9 @@ func TestLogsByteByByte(t *testing.T) {
 			"outcome " + strconv.Itoa(x.outcome) + "\n" +
 			"sum " + x.sum + "\n"
 		is(t, "the log of these tests", logText(x.number, x.kind, x.version, x.outcome), want)
-		j := entry{x.number, x.kind, x.version, x.outcome}
-		is(t, "what is written", j.text(), want)
-		got, e := parse(want)
+		j := joblog.Entry{Number: x.number, Kind: x.kind, Version: x.version, Outcome: x.outcome}
+		is(t, "what is written", j.Text(), want)
+		got, e := joblog.Parse(want)
 		is(t, "what is read", e, api.OK)
 		is(t, "what is read", got, j)
 	}
@@ -75,27 +76,27 @@ func TestLogsThatAreWritten(t *testing.T) {
 var form = regexp.MustCompile(`\A(granary job 1\nnumber (0|[1-9][0-9]{0,15})\nkind (0|[1-9][0-9]{0,15})\nversion (0|[1-9][0-9]{0,15})\noutcome (0|[1-9][0-9]{0,15})\n)sum ([0-9a-f]{8})\n\z`)
 
 // plainly reads a log by the chapter's words.
-func plainly(text string) (entry, api.Errno) {
+func plainly(text string) (joblog.Entry, api.Errno) {
 	parts := form.FindStringSubmatch(text)
 	if parts == nil {
-		return entry{}, api.ErrForm
+		return joblog.Entry{}, api.ErrForm
 	}
 	if sealed(parts[1]) != text {
-		return entry{}, api.ErrSum
+		return joblog.Entry{}, api.ErrSum
 	}
 	var n [4]int
 	for i := range n {
 		n[i], _ = strconv.Atoi(parts[2+i])
 	}
-	j := entry{n[0], n[1], n[2], n[3]}
+	j := joblog.Entry{Number: n[0], Kind: n[1], Version: n[2], Outcome: n[3]}
 	for _, ok := range []bool{
-		1 <= j.number && j.number <= most,
-		1 <= j.kind && j.kind <= 3,
-		j.kind == 3 && j.version == 0 || j.kind != 3 && 1 <= j.version && j.version <= last,
-		j.kind == 3 && j.outcome == 3 || j.kind != 3 && 0 <= j.outcome && j.outcome <= 3,
+		1 <= j.Number && j.Number <= most,
+		1 <= j.Kind && j.Kind <= 3,
+		j.Kind == 3 && j.Version == 0 || j.Kind != 3 && 1 <= j.Version && j.Version <= last,
+		j.Kind == 3 && j.Outcome == 3 || j.Kind != 3 && 0 <= j.Outcome && j.Outcome <= 3,
 	} {
 		if !ok {
-			return entry{}, api.ErrField
+			return joblog.Entry{}, api.ErrField
 		}
 	}
 	return j, api.OK
@@ -118,12 +119,12 @@ func readIs(t *testing.T, text string, want api.Errno) {
 		return
 	}
 	var list []api.Msg
-	if j.outcome == 0 {
-		list = messages(back, 3, j.number, 0)
+	if j.Outcome == 0 {
+		list = messages(back, 3, j.Number, 0)
 	}
 	costs(t, fmt.Sprintf("%q", text), d, 2, func() { bootGives(t, b, text, list, api.OK) })
 	is(t, "Up", b.Up(), true)
-	is(t, "Busy", b.Busy(), j.outcome == 0)
+	is(t, "Busy", b.Busy(), j.Outcome == 0)
 }
 
 func bootGives(t *testing.T, b *bench, text string, want []api.Msg, wantErrno api.Errno) {
@@ -304,7 +305,7 @@ func TestLogsWithOneByteSpoilt(t *testing.T) {
 					texts = append(texts, good[:i]+put+good[i+1:], good[:i]+good[i+1:])
 				}
 				for _, text := range texts {
-					j, e := parse(text)
+					j, e := joblog.Parse(text)
 					want, f := plainly(text)
 					if j != want || e != f || e == api.OK && text != good {
 						t.Fatalf("%q: %v, %d, want %v, %d", text, j, e, want, f)
@@ -333,13 +334,13 @@ func TestLogsByLot(t *testing.T) {
 			at := lot.roll(len(text))
 			text = text[:at] + oneOf(&lot, "", "\n", " ", "0", "1", "a", "sum ") + text[at+lot.roll(2):]
 		}
-		j, e := parse(text)
+		j, e := joblog.Parse(text)
 		want, f := plainly(text)
 		if j != want || e != f {
 			t.Fatalf("%q: %v, %d, want %v, %d", text, j, e, want, f)
 		}
-		if e == api.OK && j.text() != text {
-			t.Fatalf("%q is written as %q", text, j.text())
+		if e == api.OK && j.Text() != text {
+			t.Fatalf("%q is written as %q", text, j.Text())
 		}
 		counts[e]++
 	}

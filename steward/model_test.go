@@ -4,6 +4,7 @@ import (
 	"granary/api"
 	"granary/control"
 	"granary/disk"
+	"granary/joblog"
 )
 
 // The plain reading of the chapter: the controller is what a log says and the calls that were made since, and is made anew out of these where one of them is to be forgotten. It has a disk of its own.
@@ -12,14 +13,14 @@ type reading struct {
 	c     api.Cluster
 	d     *disk.Disk
 	up    bool
-	log   entry                                             // that was there at Boot
+	log   joblog.Entry                                      // that was there at Boot
 	calls []func(k *control.Control) ([]api.Msg, api.Errno) // since then
 	k     *control.Control
 }
 
 // anew is the controller out of the log and the calls.
 func (r *reading) anew() []api.Msg {
-	k, list, _ := control.Resume(r.c, r.log.number, r.log.kind, r.log.version, r.log.number > 0 && r.log.outcome == 0)
+	k, list, _ := control.Resume(r.c, r.log.Number, r.log.Kind, r.log.Version, r.log.Number > 0 && r.log.Outcome == 0)
 	for _, call := range r.calls {
 		call(k)
 	}
@@ -37,7 +38,7 @@ func (r *reading) boot() ([]api.Msg, api.Errno) {
 	if e != api.OK && e != api.ErrNone {
 		return nil, e
 	}
-	r.log = entry{}
+	r.log = joblog.Entry{}
 	if e == api.OK {
 		if kind == api.IsDir {
 			return nil, api.ErrKind

@@ -199,20 +199,20 @@ func (w *world) boots() {
 func (w *world) booted(list []api.Msg) {
 	w.t.Helper()
 	j := logOf(w.t, w.b.d)
-	if w.ghost != nil && j.number == w.number+1 {
+	if w.ghost != nil && j.Number == w.number+1 {
 		w.events["written, and no message went out"]++
 		w.number++
 		w.jobs[w.number] = w.ghost
 	}
 	w.ghost = nil
-	is(w.t, "the log's number", j.number, w.number)
+	is(w.t, "the log's number", j.Number, w.number)
 	a := w.jobs[w.number]
 	switch {
 	case a == nil || a.over || a.kind == api.JobLook:
 		is(w.t, "messages of Boot", len(list), 0)
 	case len(list) == 0:
 		w.events["the end was written, and not told"]++
-		is(w.t, "the log is open", j.outcome == 0, false)
+		is(w.t, "the log is open", j.Outcome == 0, false)
 	default:
 		w.events["taken back"]++
 		sent(w.t, "Boot", list, api.OK, messages(back, w.b.n, w.number, 0))

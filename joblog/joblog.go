@@ -1,4 +1,5 @@
-package steward
+// Package joblog has the text in which a steward writes down its last job: see DOC.md, layer 20.
+package joblog
 
 import (
 	"strconv"
@@ -9,41 +10,41 @@ import (
 	"granary/plain"
 )
 
+// The names on a steward's disk.
+const (
+	Name    = "job"
+	NewName = "job.new" // where a log is written, ahead of taking the last one's place
+)
+
 const (
 	title      = "granary job 1\n"
 	sumWord    = "sum "
 	sumBytes   = 4
 	hexDigits  = "0123456789abcdef"
 	mostDigits = 16 // of a number
-	open       = 0  // the outcome of a job that has not ended
 )
 
-// entry is what a log says of a job.
-type entry struct {
-	number, kind, version, outcome int
+// Open is the outcome of a job that has not ended.
+const Open = 0
+
+// Entry is what a log says of a job.
+type Entry struct {
+	Number, Kind, Version, Outcome int
 }
 
-// begun is what is written of a job ahead of its first message. A look has nothing that could be taken back, so it is never open.
-func begun(number, kind, version int) entry {
-	j := entry{number: number, kind: kind, version: version, outcome: open}
-	if kind == api.JobLook {
-		j.outcome = api.Incomplete
-	}
-	return j
-}
-
-func (j entry) isOpen() bool { return j.number > 0 && j.outcome == open }
+// IsOpen tells whether there is a job that has not ended.
+func (j Entry) IsOpen() bool { return j.Number > 0 && j.Outcome == Open }
 
 // fits tells whether all numbers are in their ranges.
-func (j entry) fits() bool {
-	if j.number < 1 || j.number > api.MaxNumber {
+func (j Entry) fits() bool {
+	if j.Number < 1 || j.Number > api.MaxNumber {
 		return false
 	}
-	switch j.kind {
+	switch j.Kind {
 	case api.JobSwap, api.JobBack:
-		return plain.IsVersion(j.version) && j.outcome >= open && j.outcome <= api.Incomplete
+		return plain.IsVersion(j.Version) && j.Outcome >= Open && j.Outcome <= api.Incomplete
 	case api.JobLook:
-		return j.version == 0 && j.outcome == api.Incomplete
+		return j.Version == 0 && j.Outcome == api.Incomplete
 	}
 	return false
 }
@@ -55,17 +56,17 @@ type line struct {
 }
 
 // lines are those between the title and the sum: what is written and what is read cannot part.
-func (j *entry) lines() []line {
+func (j *Entry) lines() []line {
 	return []line{
-		{"number ", &j.number},
-		{"kind ", &j.kind},
-		{"version ", &j.version},
-		{"outcome ", &j.outcome},
+		{"number ", &j.Number},
+		{"kind ", &j.Kind},
+		{"version ", &j.Version},
+		{"outcome ", &j.Outcome},
 	}
 }
 
-// text is the log.
-func (j entry) text() string {
+// Text is the log.
+func (j Entry) Text() string {
 	body := title
 	for _, l := range j.lines() {
 		body += l.word + strconv.Itoa(*l.number) + "\n"
@@ -74,9 +75,9 @@ func (j entry) text() string {
 	return body + sumWord + digest.Hex(string(sum)) + "\n"
 }
 
-// parse reads a log.
-func parse(text string) (entry, api.Errno) {
-	var j entry
+// Parse reads a log.
+func Parse(text string) (Entry, api.Errno) {
+	var j Entry
 	rest, ok := strings.CutPrefix(text, title)
 	for _, l := range j.lines() {
 		if ok {
@@ -85,11 +86,11 @@ func parse(text string) (entry, api.Errno) {
 	}
 	switch {
 	case !ok || !isSum(rest):
-		return entry{}, api.ErrForm
-	case text != j.text(): // there is one way to write the numbers, so it is the sum that differs
-		return entry{}, api.ErrSum
+		return Entry{}, api.ErrForm
+	case text != j.Text(): // there is one way to write the numbers, so it is the sum that differs
+		return Entry{}, api.ErrSum
 	case !j.fits():
-		return entry{}, api.ErrField
+		return Entry{}, api.ErrField
 	}
 	return j, api.OK
 }
