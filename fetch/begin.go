@@ -32,7 +32,7 @@ func (j *Job) anew(manifest string, there bool) api.Errno {
 	for _, r := range j.here.Rows {
 		list = append(list, acts.On(j.here.Of(r.Name), d.Create))
 	}
-	list = append(list, acts.On(dir, d.SyncDir), acts.On(parent(dir), d.SyncDir))
+	list = append(list, acts.On(dir, d.SyncDir), acts.On(plain.Parent(dir), d.SyncDir))
 	if e := acts.Run(list...); e != api.OK {
 		return e
 	}
@@ -69,7 +69,7 @@ func (j *Job) securing(l partial.Left) []acts.Act {
 	return append(list,
 		acts.On(j.here.Of(plain.ManifestName), d.Sync),
 		acts.On(j.here.Path, d.SyncDir),
-		acts.On(parent(j.here.Path), d.SyncDir))
+		acts.On(plain.Parent(j.here.Path), d.SyncDir))
 }
 
 // cutting are the acts by which no more than a file's first bytes stay, and these are safe.

@@ -1,17 +1,11 @@
 package fetch
 
 import (
-	"strings"
-
 	"granary/acts"
 	"granary/api"
 	"granary/disk"
+	"granary/plain"
 )
-
-// parent is the path of the directory that a path's last name stands in.
-func parent(path string) string {
-	return path[:max(strings.LastIndexByte(path, '/'), 0)]
-}
 
 // Sweep takes a partial directory away.
 func Sweep(d *disk.Disk, dir string) api.Errno {
@@ -33,5 +27,5 @@ func Sweep(d *disk.Disk, dir string) api.Errno {
 
 // sweeping are the acts by which what is at a path is taken away, safe from a crash.
 func sweeping(d *disk.Disk, path string) []acts.Act {
-	return append(acts.Removing(d, path), acts.On(parent(path), d.SyncDir))
+	return append(acts.Removing(d, path), acts.On(plain.Parent(path), d.SyncDir))
 }

@@ -48,19 +48,11 @@ func entries(d *disk.Disk, path string) iter.Seq[entry] {
 	return func(yield func(entry) bool) {
 		list, _ := d.List(path) // of what is no directory: nothing
 		for _, x := range list {
-			if !yield(entry{x.Name, under(path, x.Name), x.Kind == api.IsDir}) {
+			if !yield(entry{x.Name, plain.Under(path, x.Name), x.Kind == api.IsDir}) {
 				return
 			}
 		}
 	}
-}
-
-// under is the path of an entry of a directory. The root has no name to put ahead.
-func under(path, name string) string {
-	if path == rootName {
-		return name
-	}
-	return disk.Path(path, name)
 }
 
 func (e entry) find(names []meaning) []api.Finding {

@@ -1,4 +1,4 @@
-// Package plain has what more than one layer goes by: how numbers and names stand in texts and bytes, what a version may be called, how many partitions there are, which owners are asked first.
+// Package plain has what more than one layer goes by: how numbers and names stand in texts and bytes, what a version may be called and its papers say, where things lie in a directory, how many partitions there are, which owners are asked first.
 package plain
 
 import (

@@ -4,7 +4,7 @@ import (
 	"slices"
 
 	"granary/api"
-	"granary/disk"
+	"granary/plain"
 	"granary/record"
 	"granary/ring"
 )
@@ -71,10 +71,5 @@ func (s *Shelf) read(name string) (string, api.Errno) {
 	return s.disk.Read(s.path(name), 0, api.MaxDisk)
 }
 
-// path is where a file of the directory lies. The root has no name to put ahead.
-func (s *Shelf) path(name string) string {
-	if s.dir == "" {
-		return name
-	}
-	return disk.Path(s.dir, name)
-}
+// path is where a file of the directory lies.
+func (s *Shelf) path(name string) string { return plain.Under(s.dir, name) }

@@ -119,17 +119,7 @@ func (s *Shelf) wanted(text string) (int, api.Errno) {
 	if e != api.OK {
 		return 0, e
 	}
-	own := api.Meta{
-		Store:    s.cluster.Store,
-		Version:  s.version,
-		Node:     s.node,
-		Parts:    plain.Parts(s.cluster),
-		Replicas: s.cluster.Replicas,
-		Width:    s.cluster.Width,
-		Chunks:   s.cluster.Chunks,
-		Rows:     m.Rows,
-	}
-	if m != own {
+	if m != plain.MetaOf(s.cluster, s.version, s.node, m.Rows) {
 		return 0, api.ErrOther
 	}
 	return m.Rows, api.OK
