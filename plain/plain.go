@@ -1,7 +1,8 @@
-// Package plain has what more than one layer goes by: how numbers and names stand in texts and bytes, what a version may be called and its papers say, where things lie in a directory, how many partitions there are, which owners are asked first.
+// Package plain has what more than one layer goes by: how numbers, lists of them and names stand in texts and bytes, what a version may be called and its papers say, where things lie in a directory, how many partitions there are, which owners are asked first.
 package plain
 
 import (
+	"strconv"
 	"strings"
 
 	"granary/api"
@@ -27,6 +28,21 @@ func Number(text string, digits int) (int, bool) {
 		n = 10*n + int(text[i]-'0')
 	}
 	return n, true
+}
+
+// ListOf writes a list of numbers as one word.
+func ListOf(list []int) string {
+	if len(list) == 0 {
+		return "-"
+	}
+	var text strings.Builder
+	for i, n := range list {
+		if i > 0 {
+			text.WriteByte(',')
+		}
+		text.WriteString(strconv.Itoa(n))
+	}
+	return text.String()
 }
 
 // IsStore tells whether a store may be called so.

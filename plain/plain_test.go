@@ -21,6 +21,17 @@ func TestNumber(t *testing.T) {
 	}
 }
 
+func TestListOf(t *testing.T) {
+	for want, list := range map[string][]int{"-": nil, "0": {0}, "-1": {-1}, "3,-1,20": {3, -1, 20}} {
+		if text := ListOf(list); text != want {
+			t.Errorf("ListOf(%v) = %q", list, text)
+		}
+	}
+	if ListOf([]int{}) != "-" {
+		t.Error("ListOf of an empty list")
+	}
+}
+
 func TestIsStore(t *testing.T) {
 	for _, text := range []string{"a", "z", "east", "a-9", "a0-", "z--", strings.Repeat("s", 40)} {
 		if !IsStore(text) {

@@ -5,6 +5,7 @@ import (
 	"strings"
 
 	"granary/api"
+	"granary/plain"
 )
 
 // writer writes a line's words one after the other, each with a blank ahead of it.
@@ -36,16 +37,7 @@ func (w *writer) take(from []*int) {
 }
 
 // list writes a list of numbers as one word.
-func (w *writer) list(list []int) {
-	if len(list) == 0 {
-		w.put(" -")
-	}
-	mark := " "
-	for _, n := range list {
-		w.put(mark + strconv.Itoa(n))
-		mark = ","
-	}
-}
+func (w *writer) list(list []int) { w.put(" " + plain.ListOf(list)) }
 
 func (w *writer) key(key string) {
 	w.put(" =")
