@@ -64,7 +64,7 @@ func (w *witness) quiet(lot *dice) {
 			w.fail("a job does not end")
 		}
 		if served && ticks < 300 {
-			round(w.t, w.do, w.look)
+			round(w.t, w.do, w.look, nil)
 			continue
 		}
 		w.clear()
@@ -130,7 +130,7 @@ func (w *witness) orders(op api.Op, most int) {
 		w.fail("an order tells %+v", list)
 	}
 	for range most {
-		for _, e := range round(w.t, w.do, w.look) {
+		for _, e := range round(w.t, w.do, w.look, nil) {
 			if e.Kind != api.EvReport {
 				continue
 			}
@@ -153,7 +153,7 @@ func (w *witness) asks(version, most int, keys ...string) {
 		open[first+i] = key
 	}
 	for range most {
-		for _, e := range round(w.t, w.do, w.look) {
+		for _, e := range round(w.t, w.do, w.look, nil) {
 			key, is := open[e.Outcome.Ticket]
 			if e.Kind != api.EvGot || !is {
 				continue
@@ -168,6 +168,20 @@ func (w *witness) asks(version, most int, keys ...string) {
 	}
 	if len(open) > 0 {
 		w.fail("the gets %v are open behind %d rounds", open, most)
+	}
+}
+
+// readsAll holds that an audit and an export of what all nodes have come to all of it.
+func (w *witness) readsAll(version int) {
+	w.t.Helper()
+	w.do(api.Op{Kind: api.OpAudit, I: version})
+	w.do(api.Op{Kind: api.OpExport, I: version})
+	for w.view.Auditing || w.view.Exporting {
+		for _, e := range round(w.t, w.do, w.look, nil) {
+			if e.Kind == api.EvAudited && e.Audited.Outcome != api.AuditAlike || e.Kind == api.EvExported && len(e.Exported.Missing) > 0 {
+				w.fail("in calm: %+v", e)
+			}
+		}
 	}
 }
 
@@ -235,6 +249,7 @@ func (w *witness) calms(lot *dice) {
 	for range lot.roll(4) {
 		w.asks(v, 3, drawnKeys(lot, 1+lot.roll(8))...)
 	}
+	w.readsAll(v)
 	if lot.roll(2) == 0 {
 		w.quiet(lot)
 	}

@@ -21,7 +21,7 @@ func story(t *testing.T, text string) []api.Op {
 	} {
 		w.do(op)
 		for w.view.Busy || w.view.Open > 0 {
-			round(t, w.do, w.look)
+			round(t, w.do, w.look, nil)
 		}
 	}
 	return w.ops

@@ -3,6 +3,7 @@ package granary
 import (
 	"fmt"
 	"reflect"
+	"slices"
 	"strconv"
 	"strings"
 	"testing"
@@ -171,16 +172,14 @@ func told(t *testing.T, letters []api.Letter) []api.Msg {
 	return list
 }
 
-// round is what the chapter calls one; which nodes have turns may be left to the caller.
-func round(t *testing.T, step func(api.Op) []api.Event, look func() api.View) []api.Event {
+// round is what the chapter calls one; nodes that are down have no turns. Letters that are kept back are not delivered in it.
+func round(t *testing.T, step func(api.Op) []api.Event, look func() api.View, kept map[int]bool) []api.Event {
 	t.Helper()
 	list := step(api.Op{Kind: api.OpTick})
 	for _, l := range look().Flight {
-		for at, now := range look().Flight {
-			if now.Id == l.Id {
-				list = append(list, step(api.Op{Kind: api.OpDeliver, I: at})...)
-				break
-			}
+		at := slices.IndexFunc(look().Flight, func(now api.Letter) bool { return now.Id == l.Id })
+		if !kept[l.Id] {
+			list = append(list, step(api.Op{Kind: api.OpDeliver, I: at})...)
 		}
 	}
 	for n, v := range look().Nodes {
@@ -199,7 +198,7 @@ func rounds(t *testing.T, m *Machine, count int) []api.Event {
 	t.Helper()
 	var list []api.Event
 	for range count {
-		list = append(list, round(t, m.Do, m.Look)...)
+		list = append(list, round(t, m.Do, m.Look, nil)...)
 	}
 	return list
 }

@@ -127,3 +127,17 @@ func TestLettersInAnyOrder(t *testing.T) {
 	behind(t, m, "the Back comes ahead of its Swap", "deliver 2\nturn 0\ndeliver 1\nturn 0\n", "sent 0 8 0 64 1 1 2 0 0 0 = =\nsent 0 6 0 64 1 1 1 0 0 122 = =\n")
 	behind(t, m, "the answers come out of their order", "deliver 2\ndeliver 0\ncut 0 64\ndeliver 0\nheal 64 0\ndeliver 0\n", "refused 132\nreport 1 1 1 2 0 -\n")
 }
+
+// What comes late of an ended job counts in no other one.
+func TestAnswersOfOtherJobs(t *testing.T) {
+	m := newMachine(t, one)
+	behind(t, m, "a look, whose answer is doubled", "look\ndeliver 0\nturn 0\ncopy 0\ndeliver 0\n", "sent 0 10 0 64 1 0 0 0 0 0 = =\nreport 1 3 0 1 0 -\n")
+	behind(t, m, "a swap, with the copy in flight", strings.ReplaceAll(whole, "deliver 0", "deliver 1")+"turn 0\ncopy 1\ndeliver 1\n",
+		"built 1 0 1 1 4 378\nsent 0 4 0 64 2 2 0 1 0 0 = =\nsent 0 6 0 64 2 2 1 1 0 0 = =\nreport 2 1 1 1 1 -\n")
+	behind(t, m, "another look: the copies do not count", "look\ndeliver 0\ndeliver 0\n", "")
+	behind(t, m, "its own answer does", "deliver 0\nturn 0\ndeliver 0\n", "sent 0 10 0 64 3 2 1 1 0 0 = =\nreport 3 3 0 1 1 -\n")
+	behind(t, m, "jobs that are taken back, one behind the other", "back 5\nstop\ndeliver 1\nturn 0\ncopy 1\ndeliver 1\ndrop 0\n", "sent 0 8 0 64 4 4 2 1 1 0 = =\nreport 4 2 5 2 1 -\n")
+	behind(t, m, "the copy does not count", "back 6\nstop\ndeliver 0\n", "")
+	is(t, "Busy", m.Look().Busy, true)
+	behind(t, m, "its own answer does", "drop 0\ndeliver 0\nturn 0\ndeliver 0\n", "sent 0 8 0 64 5 5 2 1 1 0 = =\nreport 5 2 6 2 1 -\n")
+}

@@ -256,11 +256,20 @@ func (w *witness) run(lot *dice, steps int) {
 	if lot.roll(4) > 0 {
 		w.do(api.Op{Kind: api.OpSwap, I: 1})
 		for range lot.roll(60) {
-			round(w.t, w.do, func() api.View { return w.view })
+			w.hoard(lot)
+			round(w.t, w.do, w.look, w.held)
 		}
 	}
-	wild := oneOf(lot, 1, 4, 15, 40) // how many steps by lot stand between two rounds
+	w.wander(lot, steps, how, oneOf(lot, 1, 4, 15, 40))
+}
+
+// wander goes on by rounds, and between two of them by so many steps by lot.
+func (w *witness) wander(lot *dice, steps int, how mood, wild int) {
+	w.t.Helper()
 	for w.steps < steps {
+		if lot.roll(150) == 0 {
+			w.loads()
+		}
 		if lot.roll(wild) == 0 {
 			w.goOn(lot)
 			continue
@@ -282,7 +291,24 @@ func (w *witness) goOn(lot *dice) {
 	default:
 		w.do(w.drawnAsk(lot))
 	}
-	round(w.t, w.do, func() api.View { return w.view })
+	w.hoard(lot)
+	round(w.t, w.do, w.look, w.held)
+}
+
+// hoard keeps copies of letters back, so that they come long behind their time: when other jobs are going on.
+func (w *witness) hoard(lot *dice) {
+	w.t.Helper()
+	for at, l := range w.view.Flight {
+		switch {
+		case w.held[l.Id] && lot.roll(60) == 0:
+			delete(w.held, l.Id)
+		case w.held[l.Id]:
+		case len(w.held) < 30 && lot.roll(10) == 0:
+			if list := w.do(api.Op{Kind: api.OpCopy, I: at}); len(list) == 0 {
+				w.held[w.lastId] = true
+			}
+		}
+	}
 }
 
 // show tells how often things came about, if one asks for it.
@@ -318,5 +344,22 @@ func TestRunsByLot(t *testing.T) {
 		"exported, all missing: false, some missing: false", "exported, all missing: false, some missing: true",
 		"report 1 1", "report 1 2", "report 1 3", "report 2 1", "report 2 2", "report 2 3", "report 3 1", "report 3 3",
 		"refused 1", "refused 10", "refused 131", "refused 132", "refused 141", "refused 142", "refused 150", "refused 151", "refused 182", "refused 32", "refused 68", "refused 80", "refused 86")
+	show(t, count)
+}
+
+// Letters come when other jobs are going on than those that they are of: nothing of them counts any more.
+func TestLettersOfOtherJobs(t *testing.T) {
+	t.Parallel()
+	count := map[string]int{}
+	for seed := range 40 {
+		lot := dice(seed + 700)
+		w := newWitness(t, changed(drawnCalm(&lot), "block 4096", "rate 65536", "burst 65536", "resend 2", "limit 2", "patience 30"), count)
+		for v := range 3 {
+			w.do(api.Op{Kind: api.OpBuild, Job: api.Job{Version: v + 1, Memory: 1000, FanIn: 2}, Pairs: drawnPairs(&lot)})
+		}
+		w.wander(&lot, 900, mood{10, 10, 0, 60, 20, 0, 0}, 1+9*lot.roll(2))
+		w.loads()
+	}
+	came(t, count, "report 1 1", "report 1 2", "report 2 1", "report 2 2", "report 3 1", "report 3 3")
 	show(t, count)
 }

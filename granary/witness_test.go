@@ -66,7 +66,8 @@ type witness struct {
 	made      map[int]map[string]string // by version: all its files, by their paths below build-V
 	gots      []gotten
 	tickets   []ticket
-	lastId    int // of the letters that were seen
+	lastId    int          // of the letters that were seen
+	held      map[int]bool // the letters, by their Ids, that a run keeps back
 
 	jobs  map[int]*affair
 	last  int     // the number of the last one
@@ -82,7 +83,7 @@ type witness struct {
 func newWitness(t *testing.T, text string, count map[string]int) *witness {
 	t.Helper()
 	c := clusterOf(t, text)
-	w := &witness{t: t, text: text, c: c, x: newPair(t, text), nodes: make([]tracked, len(c.Nodes)), jobs: map[int]*affair{}, count: count}
+	w := &witness{t: t, text: text, c: c, x: newPair(t, text), nodes: make([]tracked, len(c.Nodes)), jobs: map[int]*affair{}, held: map[int]bool{}, count: count}
 	w.trials, w.data, w.made = map[int]map[string]string{}, map[int]map[string]string{}, map[int]map[string]string{}
 	w.m = w.x.m
 	w.view = w.m.Look()
